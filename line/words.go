@@ -1,6 +1,10 @@
 package line
 
-import "spindle/api"
+import (
+	"maps"
+
+	"spindle/api"
+)
 
 // The parts of an opcode: its class, whether its operand is Src, and how many bytes it loads or stores.
 const (
@@ -74,8 +78,8 @@ var immWords = [...]struct {
 	{0xc3, 0x41, "afor32"}, {0xc3, 0x51, "afand32"}, {0xc3, 0xa1, "afxor32"}, {0xc3, 0xe1, "axchg32"}, {0xc3, 0xf1, "acmpxchg32"},
 }
 
-// mnemonicCount is how many keys the map of mnemonics is made for, so that it need not grow: all words, and the empty one for a while.
-const mnemonicCount = 108
+// mnemonicCount is how many keys the map of mnemonics is made for, so that it need not grow.
+const mnemonicCount = 107
 
 // meaning is what a mnemonic alone says of an instruction: its opcode, and the fields that are the same of all that are called so.
 type meaning struct {
@@ -89,30 +93,58 @@ func (m meaning) insn() api.Insn {
 // mnemonics gives each mnemonic's instruction, with what its operands say left out: where the operand may be Src or Imm, the opcode is that of Imm.
 func mnemonics() map[string]meaning {
 	m := make(map[string]meaning, mnemonicCount)
+	maps.Insert(m, eachMnemonic)
+	return m
+}
+
+// meaningOf gives what a mnemonic is. It looks through the tables: a map that is made for one line alone costs ten times that, and a text may have millions of lines.
+func meaningOf(word string) (meaning, bool) {
+	for known, m := range eachMnemonic {
+		if known == word {
+			return m, true
+		}
+	}
+	return meaning{}, false
+}
+
+// eachMnemonic goes over the rows of the map, as long as it is told to.
+func eachMnemonic(yield func(string, meaning) bool) {
+	tell := func(word string, m meaning) bool {
+		// The tables have an empty text where there is no such instruction.
+		return word == "" || yield(word, m)
+	}
 	for deed, words := range reckonWords {
-		m[words[0]] = meaning{op: uint8(deed<<deedShift | class64)}
-		m[words[1]] = meaning{op: uint8(deed<<deedShift | class32)}
+		op := uint8(deed << deedShift)
+		if !tell(words[0], meaning{op: op | class64}) || !tell(words[1], meaning{op: op | class32}) {
+			return
+		}
 	}
 	for deed, words := range jumpWords {
-		m[words[0]] = meaning{op: uint8(deed<<deedShift | classJump)}
-		m[words[1]] = meaning{op: uint8(deed<<deedShift | classJump32)}
+		op := uint8(deed << deedShift)
+		if !tell(words[0], meaning{op: op | classJump}) || !tell(words[1], meaning{op: op | classJump32}) {
+			return
+		}
 	}
 	for _, row := range memoryWords {
 		for size, word := range row.words {
-			m[word] = meaning{op: row.op | uint8(size<<sizeShift)}
+			if !tell(word, meaning{op: row.op | uint8(size<<sizeShift)}) {
+				return
+			}
 		}
 	}
 	for _, row := range offWords {
-		m[row.word] = meaning{op: row.op, off: row.off}
+		if !tell(row.word, meaning{op: row.op, off: row.off}) {
+			return
+		}
 	}
 	for _, row := range immWords {
-		m[row.word] = meaning{op: row.op, imm: row.imm}
+		if !tell(row.word, meaning{op: row.op, imm: row.imm}) {
+			return
+		}
 	}
-	m[wordLddw] = meaning{op: opWide}
-	m[wordLdmap] = meaning{op: opWide, src: srcNamed}
-	// The tables have an empty text where there is no such instruction.
-	delete(m, "")
-	return m
+	if tell(wordLddw, meaning{op: opWide}) {
+		tell(wordLdmap, meaning{op: opWide, src: srcNamed})
+	}
 }
 
 // wordOf gives the mnemonic of an instruction that may be.
