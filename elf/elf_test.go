@@ -4,6 +4,7 @@ import (
 	"bytes"
 	published "debug/elf"
 	"encoding/binary"
+	"fmt"
 	"math"
 	"math/rand"
 	"slices"
@@ -29,6 +30,12 @@ func equalSections(a, b []api.Section) bool {
 	return slices.EqualFunc(a, b, equalSection)
 }
 
+// short tells the beginning of a list, as some lists are long.
+func short(list any) string {
+	s := fmt.Sprint(list)
+	return s[:min(len(s), 300)]
+}
+
 // fileOf gives the file of sections that may be.
 func fileOf(t *testing.T, sections ...api.Section) []byte {
 	t.Helper()
@@ -44,14 +51,14 @@ func checkWrite(t *testing.T, sections []api.Section) {
 	b, e := Write(sections)
 	want, wantE := writePlain(sections)
 	if e != wantE || !bytes.Equal(b, want) {
-		t.Errorf("P9.1: Write(%.300v) = %x, %d, want %x, %d", sections, b, e, want, wantE)
+		t.Errorf("P9.1: Write(%s) = %x, %d, want %x, %d", short(sections), b, e, want, wantE)
 	}
 }
 
 func checkRefused(t *testing.T, what string, b []byte, wantAt int, want api.Errno) {
 	t.Helper()
 	if sections, at, e := Read(b); len(sections) != 0 || at != wantAt || e != want {
-		t.Errorf("P9.2: Read(%s) = %.200v, %d, %d, want none, %d, %d", what, sections, at, e, wantAt, want)
+		t.Errorf("P9.2: Read(%s) = %s, %d, %d, want none, %d, %d", what, short(sections), at, e, wantAt, want)
 	}
 }
 
@@ -60,7 +67,7 @@ func checkRead(t *testing.T, what string, b []byte) {
 	sections, at, e := Read(b)
 	want, wantAt, wantE := readPlain(b)
 	if e != wantE || at != wantAt || !equalSections(sections, want) {
-		t.Fatalf("P9.2: Read(%s) = %.200v, %d, %d, want %.200v, %d, %d\n%x", what, sections, at, e, want, wantAt, wantE, b)
+		t.Fatalf("P9.2: Read(%s) = %s, %d, %d, want %s, %d, %d\n%x", what, short(sections), at, e, short(want), wantAt, wantE, b)
 	}
 	if e != api.OK {
 		return
@@ -160,7 +167,7 @@ func TestThereAndBack(t *testing.T) {
 		b := fileOf(t, sections...)
 		checkRead(t, "a file", b)
 		if got, at, e := Read(b); at != 0 || e != api.OK || !equalSections(got, sections) {
-			t.Errorf("P9.3: Read of Write(%.300v) = %.300v, %d, %d", sections, got, at, e)
+			t.Errorf("P9.3: Read of Write(%s) = %s, %d, %d", short(sections), short(got), at, e)
 		}
 	}
 }

@@ -3,6 +3,7 @@ package symtab
 import (
 	"bytes"
 	published "debug/elf"
+	"fmt"
 	"math"
 	"math/rand"
 	"slices"
@@ -34,12 +35,18 @@ func zeros(n int) string { return string(make([]byte, n)) }
 
 func list(ss ...api.Symbol) []api.Symbol { return ss }
 
+// short tells the beginning of a list, as some lists are long.
+func short(list any) string {
+	s := fmt.Sprint(list)
+	return s[:min(len(s), 300)]
+}
+
 // bytesOf gives the bytes of symbols that may be and are in order.
 func bytesOf(t *testing.T, ss ...api.Symbol) []byte {
 	t.Helper()
 	b, e := Write(ss)
 	if e != api.OK {
-		t.Fatalf("P10.1: Write(%.300v) = %d, want OK", ss, e)
+		t.Fatalf("P10.1: Write(%s) = %d, want OK", short(ss), e)
 	}
 	return b
 }
@@ -49,13 +56,13 @@ func checkWrite(t *testing.T, ss []api.Symbol) {
 	b, e := Write(ss)
 	want, wantE := writePlain(ss)
 	if e != wantE || !bytes.Equal(b, want) {
-		t.Fatalf("P10.1: Write(%.300v) = %x, %d, want %x, %d", ss, b, e, want, wantE)
+		t.Fatalf("P10.1: Write(%s) = %x, %d, want %x, %d", short(ss), b, e, want, wantE)
 	}
 	if e != api.OK {
 		return
 	}
 	if got, at, e := Read(b); !slices.Equal(got, ss) || at != 0 || e != api.OK {
-		t.Fatalf("P10.3: Read of Write(%.300v) = %.300v, %d, %d", ss, got, at, e)
+		t.Fatalf("P10.3: Read of Write(%s) = %s, %d, %d", short(ss), short(got), at, e)
 	}
 }
 
@@ -64,7 +71,7 @@ func checkRead(t *testing.T, what string, b []byte) {
 	ss, at, e := Read(b)
 	want, wantAt, wantE := readPlain(b)
 	if !slices.Equal(ss, want) || at != wantAt || e != wantE {
-		t.Fatalf("P10.2: Read(%s) = %.200v, %d, %d, want %.200v, %d, %d\n%x", what, ss, at, e, want, wantAt, wantE, b)
+		t.Fatalf("P10.2: Read(%s) = %s, %d, %d, want %s, %d, %d\n%x", what, short(ss), at, e, short(want), wantAt, wantE, b)
 	}
 	if e != api.OK {
 		return
