@@ -142,6 +142,10 @@ func checkMay(t *testing.T, im api.Image) {
 	if what := readFault(im); what != "" {
 		t.Fatalf("P16.3: %s: %s", short(im), what)
 	}
+	b, k, e := image.Write(im)
+	if again, at, wrong := image.Read(b); k != 0 || e != api.OK || !same(again, im) || at != 0 || wrong != api.OK {
+		t.Fatalf("P16.3: %s: image.Write tells %d, %d, and image.Read %d, %d", short(im), k, e, at, wrong)
+	}
 }
 
 // readFault tells why an image may not be.
