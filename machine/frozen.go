@@ -4,6 +4,7 @@ import (
 	"slices"
 
 	"spindle/api"
+	"spindle/core"
 )
 
 // frozenFrames gives the frames, from the entry's on; behind the end none.
@@ -13,22 +14,22 @@ func (m *Machine) frozenFrames() []api.Frame {
 	}
 	all := make([]api.Frame, 0, len(m.calls)+1)
 	for d, c := range m.calls {
-		var regs [registers]uint64
-		copy(regs[firstKept:], c.kept[:])
+		var regs [core.Registers]uint64
+		copy(regs[core.FirstKept:], c.kept[:])
 		all = append(all, m.frozenFrame(d, c.frame, regs))
 	}
-	return append(all, m.frozenFrame(len(m.calls), m.frame, m.regs))
+	return append(all, m.frozenFrame(len(m.calls), m.frame, m.core.Regs))
 }
 
-func (m *Machine) frozenFrame(d int, f frame, regs [registers]uint64) api.Frame {
-	return api.Frame{Func: f.function, At: f.at, Regs: slices.Clone(regs[:]), Bytes: m.bytesAt(bottom(d), api.MaxFrame)}
+func (m *Machine) frozenFrame(d int, f frame, regs [core.Registers]uint64) api.Frame {
+	return api.Frame{Func: f.function, At: f.at, Regs: slices.Clone(regs[:]), Bytes: m.core.BytesAt(core.Bottom(d), api.MaxFrame)}
 }
 
 // frozenTables gives the tables' regions.
 func (m *Machine) frozenTables() []api.Region {
-	all := make([]api.Region, 0, len(m.tables))
+	all := make([]api.Region, 0, len(m.image.Tables))
 	for k, d := range m.image.Tables {
-		all = append(all, api.Region{First: handle(k), Data: m.bytesAt(handle(k), regionSize(d))})
+		all = append(all, api.Region{First: core.Handle(k), Data: m.core.BytesAt(core.Handle(k), regionSize(d))})
 	}
 	return all
 }
@@ -40,7 +41,7 @@ func (m *Machine) frozenEntries() []api.Contents {
 		if d.Kind != api.TableHash {
 			continue
 		}
-		es := m.entries(k)
+		es := m.core.Entries(k)
 		for n := range es {
 			es[n].Value = nil
 		}
@@ -64,7 +65,7 @@ func (m *Machine) thawTables(f api.Frozen) bool {
 			}
 			hashes++
 		}
-		m.space.Put(handle(k), f.Tables[k].Data)
+		m.core.Space.Put(core.Handle(k), f.Tables[k].Data)
 	}
 	return true
 }
@@ -78,7 +79,7 @@ func (m *Machine) thawEntries(k int, frozen []api.Entry) bool {
 		}
 		es = append(es, api.Entry{Key: e.Key, Value: value, Place: e.Place})
 	}
-	_, e := m.tables[k].Fill(es)
+	_, e := m.core.Tables[k].Fill(es)
 	return e == api.OK
 }
 
@@ -86,11 +87,11 @@ func (m *Machine) thawEntries(k int, frozen []api.Entry) bool {
 func (m *Machine) thawFrames(fs []api.Frame) {
 	for d, f := range fs {
 		stands := frame{function: f.Func, at: f.At}
-		m.addFrame(d, f.Bytes)
+		m.core.AddFrame(d, f.Bytes)
 		if d < len(fs)-1 {
-			m.calls = append(m.calls, call{stands, [registers - firstKept]uint64(f.Regs[firstKept:])})
+			m.calls = append(m.calls, call{stands, core.Kept(f.Regs[core.FirstKept:])})
 		} else {
-			m.frame, m.regs = stands, [registers]uint64(f.Regs)
+			m.frame, m.core.Regs = stands, [core.Registers]uint64(f.Regs)
 		}
 	}
 }

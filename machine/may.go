@@ -4,13 +4,14 @@ import (
 	"slices"
 
 	"spindle/api"
+	"spindle/core"
 	"spindle/isa"
 )
 
 // mayBe tells whether a frozen state may be for an image that may be, but for its hash tables' entries.
 func mayBe(im api.Image, f api.Frozen) bool {
 	switch {
-	case len(f.Context) > api.MaxContext || len(f.Draws) > api.MaxDraws || !isFuel(f.Used) || !isFuel(f.Fuel):
+	case len(f.Context) > api.MaxContext || len(f.Draws) > api.MaxDraws || !core.IsFuel(f.Used) || !core.IsFuel(f.Fuel):
 		return false
 	case !regionsMay(im.Tables, f.Tables) || !namesMay(im.Tables, f.Entries) || !isBare(f.Outcome):
 		return false
@@ -25,7 +26,7 @@ func regionsMay(ds []api.TableDef, rs []api.Region) bool {
 		return false
 	}
 	for k, r := range rs {
-		if r.First != handle(k) || len(r.Data) != regionSize(ds[k]) {
+		if r.First != core.Handle(k) || len(r.Data) != regionSize(ds[k]) {
 			return false
 		}
 	}
@@ -97,13 +98,13 @@ func framesMay(im api.Image, fs []api.Frame) bool {
 func frameMay(im api.Image, d int, f api.Frame) bool {
 	return isNumber(f.Func, len(im.Funcs)) &&
 		0 <= f.At && f.At <= im.Funcs[f.Func].Count &&
-		len(f.Regs) == registers && f.Regs[topReg] == top(d) &&
+		len(f.Regs) == core.Registers && f.Regs[core.TopReg] == core.Top(d) &&
 		len(f.Bytes) == api.MaxFrame
 }
 
 // calls tells whether a frame stands behind a call of that function, and has the registers of a caller.
 func calls(im api.Image, f api.Frame, function int) bool {
-	if f.At == 0 || slices.ContainsFunc(f.Regs[:firstKept], func(x uint64) bool { return x != 0 }) {
+	if f.At == 0 || slices.ContainsFunc(f.Regs[:core.FirstKept], func(x uint64) bool { return x != 0 }) {
 		return false
 	}
 	i := im.Text[im.Funcs[f.Func].First+f.At-1]

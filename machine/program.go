@@ -1,10 +1,10 @@
 package machine
 
 import (
-	"cmp"
 	"slices"
 
 	"spindle/api"
+	"spindle/core"
 	"spindle/isa"
 )
 
@@ -50,7 +50,7 @@ func (p *program) isBehind(f frame) bool {
 // stepOf gives the step of an instruction of a function, told by its number in the text.
 func (p *program) stepOf(function, k int) *step {
 	i := p.image.Text[k]
-	s := &step{Insn: i, width: widthOf(i.Op), bySource: hasSource(i.Op)}
+	s := &step{Step: core.StepOf(i)}
 	if s.branches() {
 		s.target = p.target(function, k)
 	}
@@ -74,26 +74,18 @@ func (p *program) target(function, k int) int {
 
 // faultOf gives the structural fault to which a step comes, but for those that hang on the frames.
 func (p *program) faultOf(s *step) api.Errno {
+	if fault := core.Fault(s.Insn); fault != api.OK {
+		return fault
+	}
 	switch {
-	case isa.May(s.Insn) != api.OK:
-		return api.FaultInsn
-	case slices.Contains(isa.Writes(s.Insn), topReg):
-		return api.FaultWrite
 	case s.Op == opWide && s.Src == srcTable && !isNumber(s.Imm, len(p.image.Tables)):
 		return api.FaultTable
 	case s.branches() && s.target == nowhere:
 		return api.FaultPlace
 	case s.Op == opCall && s.Src == srcFunction && !isNumber(s.Imm, len(p.image.Funcs)):
 		return api.FaultCall
-	case s.Op == opCall && s.Src == srcHelper && !isHelper(s.Imm):
-		return api.FaultHelper
 	}
 	return api.OK
-}
-
-// tableNamed gives the number of the table of that name: in an image the names rise.
-func (p *program) tableNamed(name string) (int, bool) {
-	return slices.BinarySearchFunc(p.image.Tables, name, func(d api.TableDef, name string) int { return cmp.Compare(d.Name, name) })
 }
 
 // isNumber tells whether n is the number of one of so many.

@@ -1,24 +1,24 @@
-package machine
+package core
 
 import (
 	"spindle/api"
 	"spindle/word"
 )
 
-func (m *Machine) operand(s *step) uint64 {
+func (c *Core) operand(s *Step) uint64 {
 	if s.bySource {
-		return m.regs[s.Src]
+		return c.Regs[s.Src]
 	}
 	return uint64(s.Imm)
 }
 
-func (m *Machine) reckon(s *step) api.Errno {
-	m.regs[s.Dst] = word.Narrow(s.reckoned(m.regs[s.Dst], m.operand(s)), s.width)
+func (c *Core) reckon(s *Step) api.Errno {
+	c.Regs[s.Dst] = word.Narrow(s.reckoned(c.Regs[s.Dst], c.operand(s)), s.width)
 	return api.OK
 }
 
 // reckoned gives what an arithmetic instruction makes of its destination and its operand; the bits from the width on say nothing.
-func (s *step) reckoned(a, b uint64) uint64 {
+func (s *Step) reckoned(a, b uint64) uint64 {
 	switch s.Op & whatBits {
 	case whatAdd:
 		return word.Add(a, b)
@@ -49,7 +49,7 @@ func (s *step) reckoned(a, b uint64) uint64 {
 }
 
 // divided: Off tells div from sdiv.
-func (s *step) divided(a, b uint64) uint64 {
+func (s *Step) divided(a, b uint64) uint64 {
 	if s.Off != 0 {
 		return word.SDiv(a, b, s.width)
 	}
@@ -57,7 +57,7 @@ func (s *step) divided(a, b uint64) uint64 {
 }
 
 // left: Off tells mod from smod.
-func (s *step) left(a, b uint64) uint64 {
+func (s *Step) left(a, b uint64) uint64 {
 	if s.Off != 0 {
 		return word.SMod(a, b, s.width)
 	}
@@ -65,7 +65,7 @@ func (s *step) left(a, b uint64) uint64 {
 }
 
 // moved: Off tells mov from movs8 and their like, and of these how many bits are taken.
-func (s *step) moved(b uint64) uint64 {
+func (s *Step) moved(b uint64) uint64 {
 	if s.Off != 0 {
 		return word.Sign(b, s.Off)
 	}
@@ -73,8 +73,8 @@ func (s *step) moved(b uint64) uint64 {
 }
 
 // order does le16 and its like, whose width is their Imm.
-func (m *Machine) order(s *step) api.Errno {
-	d := &m.regs[s.Dst]
+func (c *Core) order(s *Step) api.Errno {
+	d := &c.Regs[s.Dst]
 	if s.Op == opLittle {
 		*d = word.Narrow(*d, s.Imm)
 	} else {
@@ -84,24 +84,22 @@ func (m *Machine) order(s *step) api.Errno {
 }
 
 // layWide does lddw and ldmap.
-func (m *Machine) layWide(s *step) api.Errno {
+func (c *Core) layWide(s *Step) api.Errno {
 	if s.Src == srcTable {
-		m.regs[s.Dst] = handle(s.Imm)
+		c.Regs[s.Dst] = Handle(s.Imm)
 	} else {
-		m.regs[s.Dst] = uint64(s.Imm)
+		c.Regs[s.Dst] = uint64(s.Imm)
 	}
 	return api.OK
 }
 
-func (m *Machine) branch(s *step) api.Errno {
-	if s.holds(m.regs[s.Dst], m.operand(s)) {
-		m.at = s.target
-	}
-	return api.OK
+// Holds tells whether a branch is taken.
+func (c *Core) Holds(s *Step) bool {
+	return s.holds(c.Regs[s.Dst], c.operand(s))
 }
 
-// holds tells whether a branch is taken.
-func (s *step) holds(a, b uint64) bool {
+// holds asks what a branch asks of its destination and its operand; one that asks nothing is always taken.
+func (s *Step) holds(a, b uint64) bool {
 	w := s.width
 	switch s.Op & whatBits {
 	case askEqual:

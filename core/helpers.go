@@ -1,4 +1,4 @@
-package machine
+package core
 
 import (
 	"spindle/api"
@@ -13,26 +13,26 @@ func isHelper(n int) bool {
 }
 
 // help calls a helper.
-func (m *Machine) help(s *step) api.Errno {
-	x, e := m.helped(s.Imm)
+func (c *Core) help(s *Step) api.Errno {
+	x, e := c.helped(s.Imm)
 	if e != api.OK {
 		return e
 	}
-	m.answer(x)
+	c.answer(x)
 	return api.OK
 }
 
 // helped gives what a helper answers. Its arguments are r1 to r4.
-func (m *Machine) helped(helper int) (uint64, api.Errno) {
+func (c *Core) helped(helper int) (uint64, api.Errno) {
 	if helper == api.HelpDraw {
-		return m.draw(), api.OK
+		return c.draw(), api.OK
 	}
-	k, found := m.tableAt(m.regs[1])
+	k, found := c.tableAt(c.Regs[1])
 	if !found {
 		return noHandle, api.OK
 	}
-	t, shape := m.tables[k], m.image.Tables[k]
-	key, e := m.space.Bytes(m.regs[2], shape.Key)
+	t, shape := c.Tables[k], c.shapes[k]
+	key, e := c.Space.Bytes(c.Regs[2], shape.Key)
 	switch {
 	case e != api.OK:
 		return 0, e
@@ -41,15 +41,15 @@ func (m *Machine) helped(helper int) (uint64, api.Errno) {
 	case helper == api.HelpDelete:
 		return asWord(t.Delete(key))
 	}
-	return m.update(t, key, shape.Value)
+	return c.update(t, key, shape.Value)
 }
 
-func (m *Machine) update(t *tables.Table, key []byte, size int) (uint64, api.Errno) {
-	value, e := m.space.Bytes(m.regs[3], size)
+func (c *Core) update(t *tables.Table, key []byte, size int) (uint64, api.Errno) {
+	value, e := c.Space.Bytes(c.Regs[3], size)
 	if e != api.OK {
 		return 0, e
 	}
-	return asWord(t.Update(key, value, m.regs[4]))
+	return asWord(t.Update(key, value, c.Regs[4]))
 }
 
 // asWord gives a table's answer, which may be below 0, as a word.
@@ -58,21 +58,21 @@ func asWord(x int, e api.Errno) (uint64, api.Errno) {
 }
 
 // tableAt gives the number of the table with that handle.
-func (m *Machine) tableAt(at uint64) (int, bool) {
+func (c *Core) tableAt(at uint64) (int, bool) {
 	// Of an address ahead of all tables this wraps round to a number that is too great.
 	k := (at - api.TableAt) / api.TableStep
-	if k >= uint64(len(m.tables)) || handle(int(k)) != at {
+	if k >= uint64(len(c.Tables)) || Handle(int(k)) != at {
 		return 0, false
 	}
 	return int(k), true
 }
 
 // draw gives the next of the draws; 0, where none is left, which counts too.
-func (m *Machine) draw() uint64 {
-	k := m.used
-	m.used++
-	if k >= len(m.draws) {
+func (c *Core) draw() uint64 {
+	k := c.Used
+	c.Used++
+	if k >= len(c.Draws) {
 		return 0
 	}
-	return m.draws[k]
+	return c.Draws[k]
 }
