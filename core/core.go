@@ -67,9 +67,19 @@ func IsFuel(n int) bool {
 	return 0 <= n && n <= api.MaxFuel
 }
 
+// IsFault tells whether an error is one to which a run may come.
+func IsFault(e api.Errno) bool {
+	return e == api.FaultMemory || api.FaultInsn <= e && e <= api.FaultDeep
+}
+
 // Handle gives the address of the table of a number.
 func Handle(k int) uint64 {
 	return api.TableAt + uint64(k)*api.TableStep
+}
+
+// RegionSize gives how many bytes a table's values take: each takes a multiple of 8.
+func RegionSize(d api.TableDef) int {
+	return d.Entries * ((d.Value + 7) / 8 * 8)
 }
 
 // TableNamed gives the number of the table of that name.

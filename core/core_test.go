@@ -110,6 +110,21 @@ func TestTables(t *testing.T) {
 	if Handle(0) != 16<<32 || Handle(1023) != 1039<<32 {
 		t.Errorf("Handles: %#x, %#x", Handle(0), Handle(1023))
 	}
+	for d, want := range map[api.TableDef]int{{Value: 1, Entries: 1}: 8, {Value: 8, Entries: 3}: 24, {Value: 9, Entries: 3}: 48, {Value: 4096, Entries: 4000}: 4096 * 4000} {
+		if n := RegionSize(d); n != want {
+			t.Errorf("Regions: %+v has %d bytes, want %d", d, n, want)
+		}
+	}
+}
+
+// TestIsFault: all numbers of errors.
+func TestIsFault(t *testing.T) {
+	faults := []api.Errno{api.FaultMemory, api.FaultInsn, api.FaultPlace, api.FaultWrite, api.FaultCall, api.FaultHelper, api.FaultTable, api.FaultDeep}
+	for e := api.Errno(-1); e < 70000; e++ {
+		if IsFault(e) != slices.Contains(faults, e) {
+			t.Errorf("P22.8: IsFault(%d) = %v", e, IsFault(e))
+		}
+	}
 }
 
 // TestFault: the structural faults that hang on an instruction alone.

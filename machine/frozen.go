@@ -29,7 +29,7 @@ func (m *Machine) frozenFrame(d int, f frame, regs [core.Registers]uint64) api.F
 func (m *Machine) frozenTables() []api.Region {
 	all := make([]api.Region, 0, len(m.image.Tables))
 	for k, d := range m.image.Tables {
-		all = append(all, api.Region{First: core.Handle(k), Data: m.core.BytesAt(core.Handle(k), regionSize(d))})
+		all = append(all, api.Region{First: core.Handle(k), Data: m.core.BytesAt(core.Handle(k), core.RegionSize(d))})
 	}
 	return all
 }
@@ -48,11 +48,6 @@ func (m *Machine) frozenEntries() []api.Contents {
 		all = append(all, api.Contents{Table: d.Name, Entries: es})
 	}
 	return all
-}
-
-// regionSize gives how many bytes a table's values take: each takes a multiple of 8.
-func regionSize(d api.TableDef) int {
-	return d.Entries * ((d.Value + 7) / 8 * 8)
 }
 
 // thawTables puts the tables' entries back, and lays their regions over them; or tells that the entries may not be.

@@ -26,7 +26,7 @@ func regionsMay(ds []api.TableDef, rs []api.Region) bool {
 		return false
 	}
 	for k, r := range rs {
-		if r.First != core.Handle(k) || len(r.Data) != regionSize(ds[k]) {
+		if r.First != core.Handle(k) || len(r.Data) != core.RegionSize(ds[k]) {
 			return false
 		}
 	}
@@ -60,15 +60,11 @@ func endMay(im api.Image, f api.Frozen) bool {
 	case api.Returned:
 		return end == ending{kind: api.Returned, word: end.word}
 	case api.Faulted:
-		return end.word == 0 && isFault(end.code) && isPlace(im, end)
+		return end.word == 0 && core.IsFault(end.code) && isPlace(im, end)
 	case api.OutOfFuel:
 		return end.word == 0 && end.code == api.OK && isPlace(im, end) && f.Fuel == 0
 	}
 	return false
-}
-
-func isFault(e api.Errno) bool {
-	return e == api.FaultMemory || api.FaultInsn <= e && e <= api.FaultDeep
 }
 
 // isPlace tells whether an outcome's function is one of the image, and has the place, or ends there.
